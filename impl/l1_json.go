@@ -1,0 +1,498 @@
+// Package impl: one chart of what many parts know, asked as one graph.
+package impl
+
+import (
+	"slices"
+	"strconv"
+	"strings"
+)
+
+// Limits of values.
+const (
+	JsonMaxDepth = 16
+	JsonMaxParts = 600
+	JsonMaxText  = 24
+	JsonMaxNum   = 999999
+	NameMax      = 8
+)
+
+// Sorts of values.
+const (
+	JsonNull = 1
+	JsonBool = 2
+	JsonInt  = 3
+	JsonText = 4
+	JsonList = 5
+	JsonObj  = 6
+)
+
+// Value is a value: its sort, a number or a text, names, and what is in it.
+type Value struct {
+	Sort  int
+	Num   int
+	Text  string
+	Names []string
+	Kids  []Value
+}
+
+// JsonOk says whether a value is ok.
+func JsonOk(v Value) bool {
+	r := room{parts: JsonMaxParts}
+	return r.takes(v, 1)
+}
+
+// JsonWrite writes a value.
+func JsonWrite(v Value) string {
+	if !JsonOk(v) {
+		return ""
+	}
+	var out strings.Builder
+	writeValue(&out, v)
+	return out.String()
+}
+
+// JsonRead reads a value.
+func JsonRead(text string) (Value, bool) {
+	c := cursor{reader: reader{text: text}, room: room{parts: JsonMaxParts}}
+	return c.whole()
+}
+
+// JsonAt is what is in a value along a way of names and places.
+func JsonAt(v Value, way []string) (Value, bool) {
+	if !JsonOk(v) {
+		return Value{}, false
+	}
+	for _, step := range way {
+		place := placeOf(v, step)
+		if place < 0 {
+			return Value{}, false
+		}
+		v = v.Kids[place]
+	}
+	return copyValue(v), true
+}
+
+// jsonSort is one row of the table of values.
+type jsonSort interface {
+	// holds says whether a value has just what the row says, apart from what is in its kids.
+	holds(v Value) bool
+	write(out *strings.Builder, v Value)
+	read(c *cursor, level int) Value
+	// place is where the kid stands to which a step of a way leads, -1 if there is none.
+	place(v Value, step string) int
+}
+
+// leafSort is what the sorts without kids have in common.
+type leafSort struct{}
+
+func (leafSort) place(Value, string) int {
+	return -1
+}
+
+type (
+	nullSort struct{ leafSort }
+	boolSort struct{ leafSort }
+	intSort  struct{ leafSort }
+	textSort struct{ leafSort }
+	listSort struct{}
+	objSort  struct{}
+)
+
+// sortOf is the row of a sort by its number.
+func sortOf(number int) (jsonSort, bool) {
+	switch number {
+	case JsonNull:
+		return nullSort{}, true
+	case JsonBool:
+		return boolSort{}, true
+	case JsonInt:
+		return intSort{}, true
+	case JsonText:
+		return textSort{}, true
+	case JsonList:
+		return listSort{}, true
+	case JsonObj:
+		return objSort{}, true
+	}
+	return nil, false
+}
+
+// sortFrom is the number of the sort whose written values begin with a byte, 0 if none do.
+func sortFrom(first byte) int {
+	switch {
+	case first == 'n':
+		return JsonNull
+	case first == 't' || first == 'f':
+		return JsonBool
+	case first == '-' || isDigit(first):
+		return JsonInt
+	case first == '"':
+		return JsonText
+	case first == '[':
+		return JsonList
+	case first == '{':
+		return JsonObj
+	}
+	return 0
+}
+
+func (nullSort) holds(v Value) bool {
+	return v.Num == 0 && v.Text == "" && hasNoKids(v)
+}
+
+func (nullSort) write(out *strings.Builder, v Value) {
+	out.WriteString("null")
+}
+
+func (nullSort) read(c *cursor, level int) Value {
+	c.need("null")
+	return Value{Sort: JsonNull}
+}
+
+func (boolSort) holds(v Value) bool {
+	return (v.Num == 0 || v.Num == 1) && v.Text == "" && hasNoKids(v)
+}
+
+func (boolSort) write(out *strings.Builder, v Value) {
+	if v.Num == 1 {
+		out.WriteString("true")
+	} else {
+		out.WriteString("false")
+	}
+}
+
+func (boolSort) read(c *cursor, level int) Value {
+	if c.skip("true") {
+		return Value{Sort: JsonBool, Num: 1}
+	}
+	c.need("false")
+	return Value{Sort: JsonBool}
+}
+
+func (intSort) holds(v Value) bool {
+	return -JsonMaxNum <= v.Num && v.Num <= JsonMaxNum && v.Text == "" && hasNoKids(v)
+}
+
+func (intSort) write(out *strings.Builder, v Value) {
+	out.WriteString(strconv.Itoa(v.Num))
+}
+
+func (intSort) read(c *cursor, level int) Value {
+	sign := ""
+	if c.skip("-") {
+		sign = "-"
+	}
+	n, ok := decimal(sign + c.run(isDigit))
+	if !ok {
+		c.stop()
+	}
+	return Value{Sort: JsonInt, Num: n}
+}
+
+func (textSort) holds(v Value) bool {
+	return v.Num == 0 && isPlainText(v.Text) && hasNoKids(v)
+}
+
+func (textSort) write(out *strings.Builder, v Value) {
+	out.WriteByte('"')
+	for i := 0; i < len(v.Text); i++ {
+		b := v.Text[i]
+		if b == '"' || b == '\\' {
+			out.WriteByte('\\')
+		}
+		out.WriteByte(b)
+	}
+	out.WriteByte('"')
+}
+
+func (textSort) read(c *cursor, level int) Value {
+	c.need("\"")
+	var out strings.Builder
+	for !c.skip("\"") {
+		// A stroke is no byte of the text: it only says that the byte behind it is meant as it stands.
+		if c.skip("\\") && c.peek() != '"' && c.peek() != '\\' {
+			c.stop()
+		}
+		out.WriteByte(c.next())
+	}
+	return Value{Sort: JsonText, Text: out.String()}
+}
+
+func (listSort) holds(v Value) bool {
+	return v.Num == 0 && v.Text == "" && len(v.Names) == 0
+}
+
+func (listSort) write(out *strings.Builder, v Value) {
+	out.WriteByte('[')
+	for i, kid := range v.Kids {
+		writeComma(out, i)
+		writeValue(out, kid)
+	}
+	out.WriteByte(']')
+}
+
+func (listSort) read(c *cursor, level int) Value {
+	v := Value{Sort: JsonList}
+	c.need("[")
+	for !c.skip("]") {
+		c.comma(len(v.Kids))
+		v.Kids = append(v.Kids, c.value(level+1))
+	}
+	return v
+}
+
+func (listSort) place(v Value, step string) int {
+	n, ok := decimal(step)
+	if !ok || n < 0 || n >= len(v.Kids) {
+		return -1
+	}
+	return n
+}
+
+func (objSort) holds(v Value) bool {
+	return v.Num == 0 && v.Text == "" && len(v.Names) == len(v.Kids) && areWordsOnce(v.Names)
+}
+
+func (objSort) write(out *strings.Builder, v Value) {
+	out.WriteByte('{')
+	for i, kid := range v.Kids {
+		writeComma(out, i)
+		out.WriteString("\"" + v.Names[i] + "\":")
+		writeValue(out, kid)
+	}
+	out.WriteByte('}')
+}
+
+func (objSort) read(c *cursor, level int) Value {
+	v := Value{Sort: JsonObj}
+	c.need("{")
+	for !c.skip("}") {
+		c.comma(len(v.Kids))
+		c.need("\"")
+		v.Names = append(v.Names, c.run(isWordByte))
+		c.need("\":")
+		v.Kids = append(v.Kids, c.value(level+1))
+	}
+	return v
+}
+
+func (objSort) place(v Value, step string) int {
+	return slices.Index(v.Names, step)
+}
+
+// room is how many parts a value may still have.
+type room struct {
+	parts int
+}
+
+// enter takes the room of one part at a level; false if there is none.
+func (r *room) enter(level int) bool {
+	if level > JsonMaxDepth || r.parts == 0 {
+		return false
+	}
+	r.parts--
+	return true
+}
+
+// takes says whether a value is ok and has room. It gives up as soon as room is short, as a list may even hold itself.
+func (r *room) takes(v Value, level int) bool {
+	if !r.enter(level) || len(v.Kids) > r.parts {
+		return false
+	}
+	sort, ok := sortOf(v.Sort)
+	if !ok || !sort.holds(v) {
+		return false
+	}
+	for _, kid := range v.Kids {
+		if !r.takes(kid, level+1) {
+			return false
+		}
+	}
+	return true
+}
+
+// reader goes through a text byte by byte.
+type reader struct {
+	text string
+	at   int
+}
+
+func (r *reader) atEnd() bool {
+	return r.at == len(r.text)
+}
+
+// peek is the byte that comes next, 0 at the end.
+func (r *reader) peek() byte {
+	if r.atEnd() {
+		return 0
+	}
+	return r.text[r.at]
+}
+
+// skip goes behind a word, if it comes next.
+func (r *reader) skip(word string) bool {
+	if !strings.HasPrefix(r.text[r.at:], word) {
+		return false
+	}
+	r.at += len(word)
+	return true
+}
+
+// run goes behind all bytes that fit, and tells them.
+func (r *reader) run(fits func(b byte) bool) string {
+	from := r.at
+	for !r.atEnd() && fits(r.text[r.at]) {
+		r.at++
+	}
+	return r.text[from:r.at]
+}
+
+// cursor reads a value. Where there is none it panics with a noValue, so that each reading function tells only what it reads.
+type cursor struct {
+	reader
+	room
+}
+
+// noValue is what a cursor panics with: at which byte the text is none of a value.
+type noValue struct {
+	at int
+}
+
+func (c *cursor) stop() {
+	panic(noValue{at: c.at})
+}
+
+func (c *cursor) need(word string) {
+	if !c.skip(word) {
+		c.stop()
+	}
+}
+
+func (c *cursor) next() byte {
+	if c.atEnd() {
+		c.stop()
+	}
+	b := c.peek()
+	c.at++
+	return b
+}
+
+// comma goes behind the comma that stands ahead of each kid but the first.
+func (c *cursor) comma(kids int) {
+	if kids > 0 {
+		c.need(",")
+	}
+}
+
+func (c *cursor) value(level int) Value {
+	sort, ok := sortOf(sortFrom(c.peek()))
+	if !ok || !c.enter(level) {
+		c.stop()
+	}
+	v := sort.read(c, level)
+	if !sort.holds(v) {
+		c.stop()
+	}
+	return v
+}
+
+// whole reads a value that is all of the text.
+func (c *cursor) whole() (v Value, ok bool) {
+	defer func() {
+		if _, none := recover().(noValue); none {
+			v, ok = Value{}, false
+		}
+	}()
+	v = c.value(1)
+	if !c.atEnd() {
+		c.stop()
+	}
+	return v, true
+}
+
+func writeValue(out *strings.Builder, v Value) {
+	if sort, ok := sortOf(v.Sort); ok {
+		sort.write(out, v)
+	}
+}
+
+func writeComma(out *strings.Builder, place int) {
+	if place > 0 {
+		out.WriteByte(',')
+	}
+}
+
+func placeOf(v Value, step string) int {
+	sort, ok := sortOf(v.Sort)
+	if !ok {
+		return -1
+	}
+	return sort.place(v, step)
+}
+
+func copyValue(v Value) Value {
+	out := Value{Sort: v.Sort, Num: v.Num, Text: v.Text, Names: copyTexts(v.Names)}
+	for _, kid := range v.Kids {
+		out.Kids = append(out.Kids, copyValue(kid))
+	}
+	return out
+}
+
+// copyTexts is a list in new memory, also where slices.Clone would hand back an empty one itself.
+func copyTexts(list []string) []string {
+	return append([]string(nil), list...)
+}
+
+func hasNoKids(v Value) bool {
+	return len(v.Names) == 0 && len(v.Kids) == 0
+}
+
+func isPlainText(text string) bool {
+	if len(text) > JsonMaxText {
+		return false
+	}
+	for i := 0; i < len(text); i++ {
+		if text[i] < 32 || text[i] > 126 {
+			return false
+		}
+	}
+	return true
+}
+
+func areWordsOnce(names []string) bool {
+	for i, name := range names {
+		if !isWord(name) || slices.Contains(names[:i], name) {
+			return false
+		}
+	}
+	return true
+}
+
+func isWord(text string) bool {
+	if text == "" || len(text) > NameMax+1 || isDigit(text[0]) {
+		return false
+	}
+	for i := 0; i < len(text); i++ {
+		if !isWordByte(text[i]) {
+			return false
+		}
+	}
+	return true
+}
+
+func isWordByte(b byte) bool {
+	return 'a' <= b && b <= 'z' || b == '_' || isDigit(b)
+}
+
+func isDigit(b byte) bool {
+	return '0' <= b && b <= '9'
+}
+
+// decimal reads a number, if it is written as it would be.
+func decimal(text string) (int, bool) {
+	n, err := strconv.Atoi(text)
+	if err != nil || strconv.Itoa(n) != text {
+		return 0, false
+	}
+	return n, true
+}
