@@ -15,6 +15,28 @@ func askAll(v impl.Value, way []string) {
 	impl.JsonWrite(v)
 	impl.JsonAt(v, way)
 	impl.JsonAt(v, nil)
+	impl.JsonSame(v, v)
+	impl.JsonSame(v, null())
+	impl.JsonSame(list(v), list(v))
+	impl.JsonCount(v)
+}
+
+// askAllAsks calls each function of asks at a part and two asks.
+func askAllAsks(p impl.Part, a, b []impl.Sel) {
+	impl.AskOk(a)
+	impl.AskWrite(a)
+	impl.AskCheck(p, a)
+	impl.AskWays(a)
+	impl.AskLess(a, "a")
+	impl.AskLess(a, "a/b1")
+	impl.AskLess(a, "zz")
+	impl.AskJoin(a, b)
+	impl.AskJoin(b, a)
+	impl.AskJoin(a, a)
+	impl.AskCost(p, a)
+	impl.AskDepth(a)
+	impl.AskSize(a)
+	impl.AskFields(p, a)
 }
 
 func TestOnceValuesThatHoldThemselves(t *testing.T) {
@@ -34,16 +56,80 @@ func TestOnceValuesThatHoldThemselves(t *testing.T) {
 	wantValue(t, "an object of millions", impl.Value{Sort: impl.JsonObj, Names: make([]string, 2000000), Kids: make([]impl.Value, 2000000)}, false)
 	wantValue(t, "a long text", text(strings.Repeat("a", 2000000)), false)
 	wantValue(t, "deep lists", deepList(2000000), false)
+	for _, v := range []impl.Value{kids[1], ring[0], wide, list(wide), deepList(2000000)} {
+		if impl.JsonSame(v, v) || impl.JsonCount(v) != 0 {
+			t.Errorf("counted: %d", impl.JsonCount(v))
+		}
+	}
+}
+
+func TestOnceAsksThatHoldThemselves(t *testing.T) {
+	ring := sels(sel("a"))
+	ring[0].Kids = ring
+	wantHuge(t, "a list that holds itself", ring)
+	two := sels(sel("a"), sel("b"))
+	two[0].Kids, two[1].Kids = two, two
+	wantHuge(t, "a list that holds itself twice", two)
+	wide := sels(sel("a"))
+	for range 15 {
+		wide = slices.Repeat(sels(sel("a", wide...)), 100)
+	}
+	wantHuge(t, "lists that share what they have", wide)
+	wantHuge(t, "millions of fields", make([]impl.Sel, 2000000))
+	wantHuge(t, "millions of Kids", sels(impl.Sel{Name: "a", Kids: make([]impl.Sel, 2000000)}))
+	wantHuge(t, "many levels", nested(2000000))
+	long := strings.Repeat("a", 2000000)
+	wantHuge(t, "a long name", sels(sel(long)))
+	wantHuge(t, "a long as", sels(impl.Sel{As: long, Name: "a"}))
+	// Kids may be shared as long as there is room for each.
+	kids := sels(sel("a"), sel("b"))
+	wantAsk(t, "shared Kids", sels(sel("a", kids...), sel("b", kids...), sel("c", kids...)), true)
+}
+
+// wantHuge fails if an ask that is far too great to be written is taken for one.
+func wantHuge(t *testing.T, what string, a []impl.Sel) {
+	t.Helper()
+	askAllAsks(base(), a, sels(sel("a")))
+	if impl.AskOk(a) || impl.AskWrite(a) != "" || len(impl.AskWays(a)) > 0 || len(impl.AskLess(a, "a")) > 0 || impl.AskSize(a) != 0 || impl.AskDepth(a) != 0 {
+		t.Errorf("%s: an ask", what)
+	}
+	if got, ok := impl.AskJoin(a, sels(sel("z"))); ok || len(got) > 0 {
+		t.Errorf("%s: joined", what)
+	}
+	if got, ok := impl.AskJoin(sels(sel("z")), a); ok || len(got) > 0 {
+		t.Errorf("%s: joined", what)
+	}
+	wantUnfit(t, what, base(), a)
 }
 
 func TestOnceLongTexts(t *testing.T) {
-	for _, piece := range []string{"[", "]", "{", `"`, `\`, `"\\`, `{"a":`, "1", "-", "a", " ", "\x00", "\xff", "[1,", "null", "n", "type ", "  ", "\n", "part a\n", "type a\n", "  a int\n", "!"} {
+	for _, piece := range []string{"[", "]", "{", `"`, `\`, `"\\`, `{"a":`, "1", "-", "a", " ", "\x00", "\xff", "[1,", "null", "n", "type ", "  ", "\n", "part a\n", "type a\n", "  a int\n", "!", "{a", "{a,", "{a}", "@f", "{@f};f", ";f{@f}", ";", "a(", "($0)", "a:", "9"} {
 		line := strings.Repeat(piece, 300000)
 		wantReadOnlyWritten(t, line)
 		wantReadOnlyWritten(t, "["+line)
 		wantReadOnlyWritten(t, `"`+line)
 		wantReadOnlyWritten(t, `{"`+line)
 		wantLine(t, line, 0, impl.PartTooMany)
+		for _, whole := range []string{line, "{" + line, "{a" + line + "}", "{a(" + line + ")}", "{a};f" + line, "{@f};f" + line} {
+			wantAskText(t, whole, false)
+			if got, ok := impl.AskExpand(whole, []int{1}); ok || !isNothing(got) {
+				t.Errorf("%.40q is expanded", whole)
+			}
+			// As much of it as may be read at all.
+			wantAskAsWritten(t, whole[:400])
+			wantAsByText(t, whole[:400], []int{1})
+		}
+	}
+}
+
+// A text of many levels must not be gone down to its end: there is not as much stack.
+func TestOnceDeepTexts(t *testing.T) {
+	deepest := strings.Repeat("{a", 8000000)
+	for _, line := range []string{deepest, "{@f};f" + deepest, deepest + ";f{a}"} {
+		wantAskText(t, line, false)
+		if got, ok := impl.AskExpand(line, nil); ok || !isNothing(got) {
+			t.Errorf("%.20q is expanded", line)
+		}
 	}
 }
 
@@ -58,6 +144,7 @@ func wantReadOnlyWritten(t *testing.T, line string) {
 func TestOnceAnyBytes(t *testing.T) {
 	r := rand.New(rand.NewSource(7))
 	pieces := []string{"part ", "type ", " key ", "  ", " ", "\n", "a", "query", "int", "text", "[", "]", "!", " far", " hidden", " shared", " needs ", "{", "}", `"`, `\`, ":", ",", "-", "0", "12", "null", "true", "\x00", "\xff", "é"}
+	asks := []string{"{", "{", "}", "}", ",", ",", ":", "(", ")", "a", "b", "f", "g", "@", "@f", "@g", "$0", "$1", "$", ";", ";f{", ";g{", "(0)", "($0)", "7", "\x00", " "}
 	for range 100000 {
 		var line strings.Builder
 		for range r.Intn(14) {
@@ -65,6 +152,36 @@ func TestOnceAnyBytes(t *testing.T) {
 		}
 		wantReadOnlyWritten(t, line.String())
 		wantReadAsWritten(t, line.String())
+		line.Reset()
+		line.WriteString("{"[:r.Intn(2)])
+		for range r.Intn(14) {
+			line.WriteString(asks[r.Intn(len(asks))])
+		}
+		wantAskAsWritten(t, line.String())
+		wantAsByText(t, line.String(), []int{3, 1000000})
+	}
+}
+
+func TestOnceAnyAsk(t *testing.T) {
+	r := rand.New(rand.NewSource(12))
+	for range 20000 {
+		p, a := fitAsk(r)
+		b := anyAsk(r)
+		for range r.Intn(4) {
+			a, b = breakAsk(r, deep(a)), breakAsk(r, deep(b))
+		}
+		for range r.Intn(2) {
+			breakPart(r, &p)
+		}
+		askAllAsks(p, a, b)
+		if impl.PartCheck(p).Code != 0 {
+			wantUnfit(t, "by chance", p, a)
+		}
+		q := anyPart(r)
+		breakPart(r, &q)
+		if breaks := impl.PartBreaks(p, q); len(breaks) > 0 && (impl.PartCheck(p).Code != 0 || impl.PartCheck(q).Code != 0) {
+			t.Fatalf("%v to %v: %v", p, q, breaks)
+		}
 	}
 }
 
@@ -178,6 +295,39 @@ func TestOnceNothingIsChanged(t *testing.T) {
 			impl.PartWrite(p)
 			impl.PartField(p, "user", "z")
 			impl.PartField(p, "query", "b")
+			impl.PartBreaks(p, p)
+			impl.PartBreaks(p, base())
+			impl.PartBreaks(base(), p)
+		})
+	}
+}
+
+// twoAsks are arguments of a call, told as one.
+type twoAsks struct {
+	A, B   []impl.Sel
+	P      impl.Part
+	Values []int
+}
+
+func TestOnceNothingOfAsksIsChanged(t *testing.T) {
+	r := rand.New(rand.NewSource(13))
+	for i := range 2000 {
+		p, a := fitAsk(r)
+		ways := waysByHand("", a)
+		b := impl.AskLess(a, ways[len(ways)-1])
+		if i%4 == 0 {
+			b = anyAsk(r)
+		}
+		if i%3 == 0 {
+			a = breakAsk(r, deep(a))
+		}
+		wantUntouched(t, twoAsks{A: a, B: b, P: p, Values: []int{1, 2}}, func(x twoAsks) {
+			askAllAsks(x.P, x.A, x.B)
+			for _, way := range ways {
+				impl.AskLess(x.A, way)
+			}
+			impl.AskExpand("{a($0){@f},b($1){@f}};f{c($1)}", x.Values)
+			impl.AskExpand("{a($2)}", x.Values)
 		})
 	}
 }
@@ -204,6 +354,35 @@ func TestOnceNewMemory(t *testing.T) {
 	}
 }
 
+func TestOnceNewMemoryOfAsks(t *testing.T) {
+	r := rand.New(rand.NewSource(14))
+	for range 1000 {
+		part, of := fitAsk(r)
+		x := roomy(twoAsks{A: of, B: anyAsk(r), P: part, Values: []int{1, 2}})
+		read, _ := impl.AskRead(impl.AskWrite(x.B))
+		wantApart(t, read, x)
+		wantApart(t, impl.AskWays(x.A), x)
+		for _, way := range append(waysByHand("", x.B), "zz") {
+			wantApart(t, impl.AskLess(x.B, way), x)
+		}
+		ways := waysByHand("", x.A)
+		some := roomy(impl.AskLess(x.A, ways[r.Intn(len(ways))]))
+		for _, pair := range [][2][]impl.Sel{{x.A, x.B}, {x.B, x.A}, {x.A, x.A}, {x.A, some}, {some, x.A}} {
+			joined, _ := impl.AskJoin(pair[0], pair[1])
+			wantApart(t, joined, x, some)
+		}
+		wantApart(t, impl.AskFields(x.P, x.A), x)
+		wantApart(t, impl.AskCheck(x.P, x.B), x)
+		wantApart(t, impl.PartBreaks(x.P, base()), x)
+		own := "{a{@f},b{@f,d{@g}},@g};f{c{@g},x:c($0)};g{e{h},i}"
+		expanded, ok := impl.AskExpand(own, x.Values)
+		if !ok {
+			t.Fatalf("%s is not expanded", own)
+		}
+		wantApart(t, expanded, x)
+	}
+}
+
 // Two calls with the same arguments answer alike, and what is done to the first answer is not seen in the second.
 func TestOnceNothingIsKept(t *testing.T) {
 	v, _ := impl.JsonRead(`{"a":[1,{"b":[]}],"c":"x"}`)
@@ -221,6 +400,19 @@ func TestOnceNothingIsKept(t *testing.T) {
 	if f.Code != 0 || !same(again, base()) {
 		t.Errorf("now it is read as %v, %v", again, f)
 	}
+	a := ask(t, "{a{b,c},d}")
+	less := impl.AskLess(a, "a/c")
+	less[0].Kids[0].Name, less[1].Name = "zzz", "zzz"
+	joined, _ := impl.AskJoin(a, ask(t, "{a{e},f{g}}"))
+	joined[0].Kids[0].Name, joined[2].Kids[0].Name = "zzz", "zzz"
+	expanded, _ := impl.AskExpand("{a{@f},b{@f}};f{c{d}}", nil)
+	expanded[0].Kids[0].Kids[0].Name = "zzz"
+	if impl.AskWrite(expanded) != "{a{c{zzz}},b{c{d}}}" || impl.AskWrite(a) != "{a{b,c},d}" {
+		t.Errorf("now there is %v, and %v", expanded, a)
+	}
+	if got, _ := impl.AskExpand("{a{@f},b{@f}};f{c{d}}", nil); impl.AskWrite(got) != "{a{c{d}},b{c{d}}}" {
+		t.Errorf("now it is expanded to %v", got)
+	}
 }
 
 // The empty list and the nil list are the same value.
@@ -231,6 +423,18 @@ func TestOnceEmptyLists(t *testing.T) {
 		if !impl.JsonOk(empty) || impl.JsonWrite(empty) != impl.JsonWrite(v) {
 			t.Errorf("sort %d: empty lists matter", sort)
 		}
+	}
+	empty := sels(sel("a", sel("b")), sel("c"))
+	empty[0].Kids[0].Kids, empty[1].Kids = []impl.Sel{}, []impl.Sel{}
+	wantAsk(t, "empty Kids", empty, true)
+	part, _ := impl.PartRead(checkText)
+	bare := sels(sel("n"), sel("us"))
+	bare[0].Kids, bare[1].Kids = []impl.Sel{}, []impl.Sel{}
+	if got := impl.AskCheck(part, bare); got.Code != impl.AskBare || !slices.Equal(got.Way, []string{"us"}) {
+		t.Errorf("empty Kids: %v", got)
+	}
+	if got, ok := impl.AskJoin(sels(sel("a")), sels(impl.Sel{Name: "a", Kids: []impl.Sel{}})); !ok || impl.AskWrite(got) != "{a}" {
+		t.Errorf("empty Kids: %v, %v", got, ok)
 	}
 	p := base()
 	for i := range p.Types {
