@@ -2,6 +2,7 @@
 package impl
 
 import (
+	"iter"
 	"slices"
 	"strconv"
 	"strings"
@@ -76,7 +77,11 @@ func JsonAt(v Value, way []string) (Value, bool) {
 type jsonSort interface {
 	// holds says whether a value has just what the row says, apart from what is in its kids.
 	holds(v Value) bool
+	// write writes a value as far as its kids, lead what stands ahead of the kid at a place.
 	write(out *strings.Builder, v Value)
+	lead(out *strings.Builder, v Value, place int)
+	// end is what stands behind the kids; empty of the sorts that have none.
+	end() string
 	read(c *cursor, level int) Value
 	// place is where the kid stands to which a step of a way leads, -1 if there is none.
 	place(v Value, step string) int
@@ -84,6 +89,13 @@ type jsonSort interface {
 
 // leafSort is what the sorts without kids have in common.
 type leafSort struct{}
+
+func (leafSort) lead(*strings.Builder, Value, int) {
+}
+
+func (leafSort) end() string {
+	return ""
+}
 
 func (leafSort) place(Value, string) int {
 	return -1
@@ -224,11 +236,14 @@ func (listSort) holds(v Value) bool {
 
 func (listSort) write(out *strings.Builder, v Value) {
 	out.WriteByte('[')
-	for i, kid := range v.Kids {
-		writeComma(out, i)
-		writeValue(out, kid)
-	}
-	out.WriteByte(']')
+}
+
+func (listSort) lead(out *strings.Builder, v Value, place int) {
+	writeComma(out, place)
+}
+
+func (listSort) end() string {
+	return "]"
 }
 
 func (listSort) read(c *cursor, level int) Value {
@@ -255,12 +270,15 @@ func (objSort) holds(v Value) bool {
 
 func (objSort) write(out *strings.Builder, v Value) {
 	out.WriteByte('{')
-	for i, kid := range v.Kids {
-		writeComma(out, i)
-		out.WriteString("\"" + v.Names[i] + "\":")
-		writeValue(out, kid)
-	}
-	out.WriteByte('}')
+}
+
+func (objSort) lead(out *strings.Builder, v Value, place int) {
+	writeComma(out, place)
+	out.WriteString("\"" + v.Names[place] + "\":")
+}
+
+func (objSort) end() string {
+	return "}"
 }
 
 func (objSort) read(c *cursor, level int) Value {
@@ -410,10 +428,77 @@ func (c *cursor) whole() (v Value, ok bool) {
 	return v, true
 }
 
-func writeValue(out *strings.Builder, v Value) {
-	if sort, ok := sortOf(v.Sort); ok {
-		sort.write(out, v)
+// partsOf goes through a value, a part ahead of all in it, and no further than it is asked to. It keeps what is open in a list, as there may be more levels than a stack has room for.
+func partsOf(v Value) iter.Seq[*Value] {
+	return func(yield func(*Value) bool) {
+		open := [][]Value{{v}}
+		for len(open) > 0 {
+			last := len(open) - 1
+			part := &open[last][0]
+			open[last] = open[last][1:]
+			if len(open[last]) == 0 {
+				open = open[:last]
+			}
+			if len(part.Kids) > 0 {
+				open = append(open, part.Kids)
+			}
+			if !yield(part) {
+				return
+			}
+		}
 	}
+}
+
+// manyParts is more than anybody tells: a value with as many parts is taken for one that holds itself, which has no end.
+const manyParts = 1 << 22
+
+// hasEnd says whether a value can be gone through to its end.
+func hasEnd(v Value) bool {
+	parts := 0
+	for range partsOf(v) {
+		parts++
+		if parts == manyParts {
+			return false
+		}
+	}
+	return true
+}
+
+// written is a value whose kids are being written, and how many of them are.
+type written struct {
+	*Value
+	sort jsonSort
+	kids int
+}
+
+// writeValue writes a value that has an end, whether it is ok or not. What is open is in a list for the reason that partsOf has.
+func writeValue(out *strings.Builder, v Value) {
+	open := beginValue(out, &v, nil)
+	for len(open) > 0 {
+		last := &open[len(open)-1]
+		if last.kids == len(last.Kids) {
+			out.WriteString(last.sort.end())
+			open = open[:len(open)-1]
+			continue
+		}
+		kid := &last.Kids[last.kids]
+		last.sort.lead(out, *last.Value, last.kids)
+		last.kids++
+		open = beginValue(out, kid, open)
+	}
+}
+
+// beginValue writes a value as far as its kids; if it may have some, it is open behind that.
+func beginValue(out *strings.Builder, v *Value, open []written) []written {
+	sort, ok := sortOf(v.Sort)
+	if !ok {
+		return open
+	}
+	sort.write(out, *v)
+	if sort.end() == "" {
+		return open
+	}
+	return append(open, written{Value: v, sort: sort})
 }
 
 func writeComma(out *strings.Builder, place int) {
@@ -430,12 +515,19 @@ func placeOf(v Value, step string) int {
 	return sort.place(v, step)
 }
 
+// copyValue is a value that has an end, in new memory.
 func copyValue(v Value) Value {
-	out := Value{Sort: v.Sort, Num: v.Num, Text: v.Text, Names: copyTexts(v.Names)}
-	for _, kid := range v.Kids {
-		out.Kids = append(out.Kids, copyValue(kid))
+	open := []*Value{&v}
+	for len(open) > 0 {
+		part := open[len(open)-1]
+		open = open[:len(open)-1]
+		part.Names = copyTexts(part.Names)
+		part.Kids = append([]Value(nil), part.Kids...)
+		for i := range part.Kids {
+			open = append(open, &part.Kids[i])
+		}
 	}
-	return out
+	return v
 }
 
 // copyTexts is a list in new memory, also where slices.Clone would hand back an empty one itself.
