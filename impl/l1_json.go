@@ -428,40 +428,123 @@ func (c *cursor) whole() (v Value, ok bool) {
 	return v, true
 }
 
-// partsOf goes through a value, a part ahead of all in it, and no further than it is asked to. It keeps what is open in a list, as there may be more levels than a stack has room for.
+// kidsKey is what the kids of a value are known by: where the first of them stands, and how many they are.
+type kidsKey struct {
+	first *Value
+	count int
+}
+
+// keyOfKids is the key of kids of which there are some.
+func keyOfKids(kids []Value) kidsKey {
+	return kidsKey{first: &kids[0], count: len(kids)}
+}
+
+// partsOf tells each part of a value where it stands, once, as lists may share what they have, or even hold themselves. It keeps what is open in a list, as there may be more levels than a stack has room for.
 func partsOf(v Value) iter.Seq[*Value] {
 	return func(yield func(*Value) bool) {
+		met := map[kidsKey]int{}
 		open := [][]Value{{v}}
 		for len(open) > 0 {
-			last := len(open) - 1
-			part := &open[last][0]
-			open[last] = open[last][1:]
-			if len(open[last]) == 0 {
-				open = open[:last]
-			}
-			if len(part.Kids) > 0 {
+			kids := open[len(open)-1]
+			open = open[:len(open)-1]
+			for i := range kids {
+				part := &kids[i]
+				if !yield(part) {
+					return
+				}
+				if len(part.Kids) == 0 || met[keyOfKids(part.Kids)] > 0 {
+					continue
+				}
+				met[keyOfKids(part.Kids)]++
 				open = append(open, part.Kids)
-			}
-			if !yield(part) {
-				return
 			}
 		}
 	}
 }
 
-// manyParts is more than anybody tells: a value with as many parts is taken for one that holds itself, which has no end.
-const manyParts = 1 << 22
+// mostBytes is as much as one answer takes of memory. A value of little memory may be far greater than any memory, if its lists share what they have; one that takes more, each part told anew, cannot be told.
+const mostBytes int64 = 1 << 33
 
-// hasEnd says whether a value can be gone through to its end.
-func hasEnd(v Value) bool {
-	parts := 0
-	for range partsOf(v) {
-		parts++
-		if parts == manyParts {
-			return false
+// tooManyBytes is what a value takes that cannot be told.
+const tooManyBytes = mostBytes + 1
+
+// scale says how many bytes a part of a value takes by itself, and which kids take some beside it.
+type scale func(part *Value) (int64, []Value)
+
+// What a value and a name take of memory.
+const (
+	valueBytes = 80
+	nameBytes  = 16
+)
+
+// copyBytes is the scale of a value in memory.
+func copyBytes(part *Value) (int64, []Value) {
+	return valueBytes + nameBytes*int64(len(part.Names)), part.Kids
+}
+
+// textBytes is the scale of a value as it is written: at least as many bytes as there are then.
+func textBytes(part *Value) (int64, []Value) {
+	switch part.Sort {
+	case JsonText:
+		return wordBytes(part.Text), nil
+	case JsonList:
+		return 2 + int64(len(part.Kids)), part.Kids
+	case JsonObj:
+		bytes := 2 + int64(len(part.Kids))
+		for _, name := range part.Names {
+			bytes += wordBytes(name)
+		}
+		return bytes, part.Kids
+	}
+	return numberBytes, nil
+}
+
+// numberBytes is how many bytes a number has at most, and null, true and false have no more.
+const numberBytes = 20
+
+// wordBytes is how many bytes a text has at most, with what stands beside each byte and around them all.
+func wordBytes(text string) int64 {
+	return 3 + 2*int64(len(text))
+}
+
+// weighing is kids that are being weighed, and what those of them that are done weigh.
+type weighing struct {
+	kids  []Value
+	done  int
+	bytes int64
+}
+
+// weigh is how many bytes a value takes by a scale, each part told anew; tooManyBytes if it cannot be told. Kids are weighed once, however many values share them. While they are, they count as too many: so does a value that holds itself.
+func weigh(v Value, by scale) int64 {
+	known := map[kidsKey]int64{}
+	open := []weighing{{kids: []Value{v}}}
+	for {
+		last := &open[len(open)-1]
+		if last.bytes > mostBytes {
+			return tooManyBytes
+		}
+		if last.done == len(last.kids) {
+			open = open[:len(open)-1]
+			if len(open) == 0 {
+				return last.bytes
+			}
+			known[keyOfKids(last.kids)] = last.bytes
+			open[len(open)-1].bytes += last.bytes
+			continue
+		}
+		own, kids := by(&last.kids[last.done])
+		last.done++
+		last.bytes += own
+		if len(kids) == 0 {
+			continue
+		}
+		bytes, met := known[keyOfKids(kids)]
+		last.bytes += bytes
+		if !met {
+			known[keyOfKids(kids)] = tooManyBytes
+			open = append(open, weighing{kids: kids})
 		}
 	}
-	return true
 }
 
 // written is a value whose kids are being written, and how many of them are.
@@ -471,7 +554,7 @@ type written struct {
 	kids int
 }
 
-// writeValue writes a value that has an end, whether it is ok or not. What is open is in a list for the reason that partsOf has.
+// writeValue writes a value that can be told, whether it is ok or not. What is open is in a list for the reason that partsOf has.
 func writeValue(out *strings.Builder, v Value) {
 	open := beginValue(out, &v, nil)
 	for len(open) > 0 {
@@ -515,7 +598,7 @@ func placeOf(v Value, step string) int {
 	return sort.place(v, step)
 }
 
-// copyValue is a value that has an end, in new memory.
+// copyValue is a value that can be told, in new memory.
 func copyValue(v Value) Value {
 	open := []*Value{&v}
 	for len(open) > 0 {
