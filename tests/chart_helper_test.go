@@ -71,10 +71,9 @@ func keyByHand(lines []line, of string) string {
 	return lines[at].kind.Key
 }
 
-func isKnown(l line) bool   { return !l.f.Far }
-func isShared(l line) bool  { return l.f.Shared }
-func hasNeeds(l line) bool  { return len(l.f.Needs) > 0 }
-func isFault(code int) bool { return code != 0 }
+func isKnown(l line) bool  { return !l.f.Far }
+func isShared(l line) bool { return l.f.Shared }
+func hasNeeds(l line) bool { return len(l.f.Needs) > 0 }
 
 // faultByHand is an independent account of what is wrong with parts together first, but for All.
 func faultByHand(parts []impl.Part) impl.ChartFault {
@@ -83,7 +82,7 @@ func faultByHand(parts []impl.Part) impl.ChartFault {
 	}
 	var names []string
 	for i, p := range parts {
-		if isFault(impl.PartCheck(p).Code) {
+		if impl.PartCheck(p).Code != 0 {
 			return impl.ChartFault{At: i + 1, Code: 1}
 		}
 		if slices.Contains(names, p.Name) {
@@ -161,7 +160,7 @@ func chartByHand(parts []impl.Part) (impl.Chart, impl.ChartFault) {
 		}
 		c.All.Types = append(c.All.Types, kind)
 	}
-	if isFault(impl.PartCheck(c.All).Code) {
+	if impl.PartCheck(c.All).Code != 0 {
 		return impl.Chart{}, impl.ChartFault{Code: 8}
 	}
 	return c, impl.ChartFault{}
