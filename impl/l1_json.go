@@ -298,9 +298,10 @@ func (objSort) place(v Value, step string) int {
 	return slices.Index(v.Names, step)
 }
 
-// room is how many parts a value may still have.
+// room is how many parts a value may still have, and whether some of them may be bad, as what is known may.
 type room struct {
 	parts int
+	bad   bool
 }
 
 // enter takes the room of one part at a level; false if there is none.
@@ -317,8 +318,7 @@ func (r *room) takes(v Value, level int) bool {
 	if !r.enter(level) || len(v.Kids) > r.parts {
 		return false
 	}
-	sort, ok := sortOf(v.Sort)
-	if !ok || !sort.holds(v) {
+	if !r.holds(v) {
 		return false
 	}
 	for _, kid := range v.Kids {
@@ -327,6 +327,15 @@ func (r *room) takes(v Value, level int) bool {
 		}
 	}
 	return true
+}
+
+// holds says whether a value is ok, apart from its kids.
+func (r *room) holds(v Value) bool {
+	if r.bad && v.Sort == Bad {
+		return isBadKnown(v)
+	}
+	sort, ok := sortOf(v.Sort)
+	return ok && sort.holds(v)
 }
 
 // reader goes through a text byte by byte.
@@ -428,21 +437,21 @@ func (c *cursor) whole() (v Value, ok bool) {
 	return v, true
 }
 
-// kidsKey is what the kids of a value are known by: where the first of them stands, and how many they are.
-type kidsKey struct {
-	first *Value
+// kidsKey is what the kids of one in a tree are known by: where the first of them stands, and how many they are.
+type kidsKey[T any] struct {
+	first *T
 	count int
 }
 
 // keyOfKids is the key of kids of which there are some.
-func keyOfKids(kids []Value) kidsKey {
-	return kidsKey{first: &kids[0], count: len(kids)}
+func keyOfKids[T any](kids []T) kidsKey[T] {
+	return kidsKey[T]{first: &kids[0], count: len(kids)}
 }
 
 // partsOf tells each part of a value where it stands, once, as lists may share what they have, or even hold themselves. It keeps what is open in a list, as there may be more levels than a stack has room for.
 func partsOf(v Value) iter.Seq[*Value] {
 	return func(yield func(*Value) bool) {
-		met := map[kidsKey]int{}
+		met := map[kidsKey[Value]]int{}
 		open := [][]Value{{v}}
 		for len(open) > 0 {
 			kids := open[len(open)-1]
@@ -468,8 +477,8 @@ const mostBytes int64 = 1 << 33
 // tooManyBytes is what a value takes that cannot be told.
 const tooManyBytes = mostBytes + 1
 
-// scale says how many bytes a part of a value takes by itself, and which kids take some beside it.
-type scale func(part *Value) (int64, []Value)
+// scale says how many bytes one in a tree takes by itself, and which kids take some beside it.
+type scale[T any] func(one *T) (int64, []T)
 
 // What a value and a name take of memory.
 const (
@@ -508,16 +517,16 @@ func wordBytes(text string) int64 {
 }
 
 // weighing is kids that are being weighed, and what those of them that are done weigh.
-type weighing struct {
-	kids  []Value
+type weighing[T any] struct {
+	kids  []T
 	done  int
 	bytes int64
 }
 
-// weigh is how many bytes a value takes by a scale, each part told anew; tooManyBytes if it cannot be told. Kids are weighed once, however many values share them. While they are, they count as too many: so does a value that holds itself.
-func weigh(v Value, by scale) int64 {
-	known := map[kidsKey]int64{}
-	open := []weighing{{kids: []Value{v}}}
+// weigh is how many bytes a tree takes by a scale, each part told anew; tooManyBytes if it cannot be told. Kids are weighed once, however many share them. While they are, they count as too many: so does a tree that holds itself.
+func weigh[T any](root T, by scale[T]) int64 {
+	known := map[kidsKey[T]]int64{}
+	open := []weighing[T]{{kids: []T{root}}}
 	for {
 		last := &open[len(open)-1]
 		if last.bytes > mostBytes {
@@ -542,7 +551,7 @@ func weigh(v Value, by scale) int64 {
 		last.bytes += bytes
 		if !met {
 			known[keyOfKids(kids)] = tooManyBytes
-			open = append(open, weighing{kids: kids})
+			open = append(open, weighing[T]{kids: kids})
 		}
 	}
 }

@@ -211,18 +211,23 @@ func wantChartFault(t *testing.T, parts []impl.Part, at int, of, field string, c
 
 // anyCrew is parts by chance, most of which make a chart: what they know together is made first, and then told to them.
 func anyCrew(r *rand.Rand) []impl.Part {
+	return crewWithKeys(r, 5)
+}
+
+// crewWithKeys is parts as anyCrew has them, of which only one in so many has no key where another one has it.
+func crewWithKeys(r *rand.Rand, oneIn int) []impl.Part {
 	parts := make([]impl.Part, 1+r.Intn(4))
 	for i := range parts {
 		parts[i].Name = []string{"east", "west", "a", "north"}[i]
 	}
 	for _, name := range []string{"query", "u", "v", "w"}[:2+r.Intn(3)] {
 		key := ""
-		if name != "query" && r.Intn(5) > 0 {
+		if name != "query" && r.Intn(oneIn) > 0 {
 			key = []string{"id", "no"}[r.Intn(2)]
 		}
 		for i := range parts {
 			parts[i].Types = append(parts[i].Types, impl.Type{Name: name})
-			if key != "" && r.Intn(5) > 0 {
+			if key != "" && r.Intn(oneIn) > 0 {
 				kind := &parts[i].Types[len(parts[i].Types)-1]
 				kind.Key = key
 				kind.Fields = append(kind.Fields, impl.Field{Name: key, Of: "int", Must: true})
