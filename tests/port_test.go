@@ -153,7 +153,7 @@ func portByHand(parts []impl.Part, line string, stored func(c impl.Chart, a []im
 func TestP44P45(t *testing.T) {
 	r := rand.New(rand.NewSource(90))
 	codes := map[int]int{}
-	for range 5000 {
+	for range 3000 {
 		v := anySailing(r)
 		line, parts := askByHand(v.a), v.parts
 		whole, code := impl.PortWhole(parts, v.rows, line)
@@ -204,7 +204,7 @@ func TestP44P45(t *testing.T) {
 		}
 	}
 	for code := range impl.PortStore + 1 {
-		if code != impl.PortPart && codes[code] < 30 {
+		if code != impl.PortPart && codes[code] < 20 {
 			t.Errorf("the code %d only %d times", code, codes[code])
 		}
 	}
@@ -262,7 +262,7 @@ func TestP46(t *testing.T) {
 func TestP57(t *testing.T) {
 	r := rand.New(rand.NewSource(92))
 	refused := 0
-	for range 6000 {
+	for range 3000 {
 		v := anySailing(r)
 		parts := deep(v.parts)
 		// Whichever part hides it, it may not be asked for.
@@ -285,7 +285,7 @@ func TestP57(t *testing.T) {
 			t.Fatalf("%s is hidden, but answered: %q, %d", name, got, code)
 		}
 	}
-	if refused < 1000 {
+	if refused < 500 {
 		t.Errorf("only %d refused", refused)
 	}
 }

@@ -551,7 +551,7 @@ func TestSailGreat(t *testing.T) {
 func TestP34(t *testing.T) {
 	r := rand.New(rand.NewSource(75))
 	plain, twice := 0, 0
-	for i := range 3000 {
+	for i := range 1500 {
 		v := anySailing(r)
 		if i%2 == 0 {
 			v = loosen(r, v)
@@ -578,7 +578,7 @@ func TestP34(t *testing.T) {
 			}
 		}
 	}
-	if plain < 3000 || twice < 50 {
+	if plain < 1500 || twice < 25 {
 		t.Errorf("%d plain, %d with what is brought twice", plain, twice)
 	}
 }
