@@ -82,6 +82,8 @@ type jsonSort interface {
 	lead(out *strings.Builder, v Value, place int)
 	// end is what stands behind the kids; empty of the sorts that have none.
 	end() string
+	// bytes is how many bytes a value has as it is written, but for those of its kids.
+	bytes(v Value) int64
 	read(c *cursor, level int) Value
 	// place is where the kid stands to which a step of a way leads, -1 if there is none.
 	place(v Value, step string) int
@@ -156,6 +158,10 @@ func (nullSort) write(out *strings.Builder, v Value) {
 	out.WriteString("null")
 }
 
+func (nullSort) bytes(Value) int64 {
+	return int64(len("null"))
+}
+
 func (nullSort) read(c *cursor, level int) Value {
 	c.need("null")
 	return Value{Sort: JsonNull}
@@ -166,11 +172,11 @@ func (boolSort) holds(v Value) bool {
 }
 
 func (boolSort) write(out *strings.Builder, v Value) {
-	if v.Num == 1 {
-		out.WriteString("true")
-	} else {
-		out.WriteString("false")
-	}
+	out.WriteString(boolText(v))
+}
+
+func (boolSort) bytes(v Value) int64 {
+	return int64(len(boolText(v)))
 }
 
 func (boolSort) read(c *cursor, level int) Value {
@@ -187,6 +193,10 @@ func (intSort) holds(v Value) bool {
 
 func (intSort) write(out *strings.Builder, v Value) {
 	out.WriteString(strconv.Itoa(v.Num))
+}
+
+func (intSort) bytes(v Value) int64 {
+	return decimalBytes(v.Num)
 }
 
 func (intSort) read(c *cursor, level int) Value {
@@ -207,14 +217,12 @@ func (textSort) holds(v Value) bool {
 
 func (textSort) write(out *strings.Builder, v Value) {
 	out.WriteByte('"')
-	for i := 0; i < len(v.Text); i++ {
-		b := v.Text[i]
-		if b == '"' || b == '\\' {
-			out.WriteByte('\\')
-		}
-		out.WriteByte(b)
-	}
+	out.WriteString(strings.ReplaceAll(strings.ReplaceAll(v.Text, `\`, `\\`), `"`, `\"`))
 	out.WriteByte('"')
+}
+
+func (textSort) bytes(v Value) int64 {
+	return quotedBytes(v.Text)
 }
 
 func (textSort) read(c *cursor, level int) Value {
@@ -244,6 +252,10 @@ func (listSort) lead(out *strings.Builder, v Value, place int) {
 
 func (listSort) end() string {
 	return "]"
+}
+
+func (listSort) bytes(v Value) int64 {
+	return bracketBytes(len(v.Kids))
 }
 
 func (listSort) read(c *cursor, level int) Value {
@@ -281,6 +293,14 @@ func (objSort) end() string {
 	return "}"
 }
 
+func (objSort) bytes(v Value) int64 {
+	bytes := bracketBytes(len(v.Kids))
+	for _, name := range v.Names {
+		bytes += int64(len(name) + len(`"":`))
+	}
+	return bytes
+}
+
 func (objSort) read(c *cursor, level int) Value {
 	v := Value{Sort: JsonObj}
 	c.need("{")
@@ -298,10 +318,9 @@ func (objSort) place(v Value, step string) int {
 	return slices.Index(v.Names, step)
 }
 
-// room is how many parts a value may still have, and whether some of them may be bad, as what is known may.
+// room is how many parts a value may still have.
 type room struct {
 	parts int
-	bad   bool
 }
 
 // enter takes the room of one part at a level; false if there is none.
@@ -318,7 +337,8 @@ func (r *room) takes(v Value, level int) bool {
 	if !r.enter(level) || len(v.Kids) > r.parts {
 		return false
 	}
-	if !r.holds(v) {
+	sort, ok := sortOf(v.Sort)
+	if !ok || !sort.holds(v) {
 		return false
 	}
 	for _, kid := range v.Kids {
@@ -327,15 +347,6 @@ func (r *room) takes(v Value, level int) bool {
 		}
 	}
 	return true
-}
-
-// holds says whether a value is ok, apart from its kids.
-func (r *room) holds(v Value) bool {
-	if r.bad && v.Sort == Bad {
-		return isBadKnown(v)
-	}
-	sort, ok := sortOf(v.Sort)
-	return ok && sort.holds(v)
 }
 
 // reader goes through a text byte by byte.
@@ -443,8 +454,10 @@ type kidsKey[T any] struct {
 	count int
 }
 
-// keyOfKids is the key of kids of which there are some.
 func keyOfKids[T any](kids []T) kidsKey[T] {
+	if len(kids) == 0 {
+		return kidsKey[T]{}
+	}
 	return kidsKey[T]{first: &kids[0], count: len(kids)}
 }
 
@@ -471,14 +484,8 @@ func partsOf(v Value) iter.Seq[*Value] {
 	}
 }
 
-// mostBytes is as much as one answer takes of memory. A value of little memory may be far greater than any memory, if its lists share what they have; one that takes more, each part told anew, cannot be told.
-const mostBytes int64 = 1 << 33
-
-// tooManyBytes is what a value takes that cannot be told.
-const tooManyBytes = mostBytes + 1
-
-// scale says how many bytes one in a tree takes by itself, and which kids take some beside it.
-type scale[T any] func(one *T) (int64, []T)
+// mostBytes is as much as one answer takes of memory, a quarter of what a machine has. A value of little memory may be far greater than any memory, if its lists share what they have; one that takes more, each part told anew, cannot be told.
+const mostBytes int64 = 1 << 34
 
 // What a value and a name take of memory.
 const (
@@ -486,111 +493,171 @@ const (
 	nameBytes  = 16
 )
 
-// copyBytes is the scale of a value in memory.
+// scale is how a tree is weighed.
+type scale[T any] struct {
+	// own is what one weighs by itself, and which kids weigh something beside it.
+	own func(one *T) (int64, []T)
+	// ring is what kids weigh that stand within themselves.
+	ring int64
+	// most is as much as can be weighed.
+	most int64
+}
+
+// bytesScale is a scale of what takes memory: in a ring there is no end of it.
+func bytesScale[T any](own func(one *T) (int64, []T)) scale[T] {
+	return scale[T]{own: own, ring: mostBytes + 1, most: mostBytes}
+}
+
+// copyBytes is what a value takes of memory.
 func copyBytes(part *Value) (int64, []Value) {
 	return valueBytes + nameBytes*int64(len(part.Names)), part.Kids
 }
 
-// textBytes is the scale of a value as it is written: at least as many bytes as there are then.
+// textBytes is what a value takes of a text.
 func textBytes(part *Value) (int64, []Value) {
-	switch part.Sort {
-	case JsonText:
-		return wordBytes(part.Text), nil
-	case JsonList:
-		return 2 + int64(len(part.Kids)), part.Kids
-	case JsonObj:
-		bytes := 2 + int64(len(part.Kids))
-		for _, name := range part.Names {
-			bytes += wordBytes(name)
-		}
-		return bytes, part.Kids
+	sort, ok := sortOf(part.Sort)
+	switch {
+	case !ok:
+		return 0, nil
+	case sort.end() == "":
+		return sort.bytes(*part), nil
 	}
-	return numberBytes, nil
+	return sort.bytes(*part), part.Kids
 }
 
-// numberBytes is how many bytes a number has at most, and null, true and false have no more.
-const numberBytes = 20
+// scales weigh trees, and know what kids weigh that they have met: lists may share what they have.
+type scales[T any] struct {
+	scale[T]
+	known map[kidsKey[T]]int64
+}
 
-// wordBytes is how many bytes a text has at most, with what stands beside each byte and around them all.
-func wordBytes(text string) int64 {
-	return 3 + 2*int64(len(text))
+func scalesOf[T any](by scale[T]) scales[T] {
+	return scales[T]{scale: by, known: map[kidsKey[T]]int64{}}
 }
 
 // weighing is kids that are being weighed, and what those of them that are done weigh.
 type weighing[T any] struct {
-	kids  []T
-	done  int
-	bytes int64
+	kids   []T
+	done   int
+	weight int64
 }
 
-// weigh is how many bytes a tree takes by a scale, each part told anew; tooManyBytes if it cannot be told. Kids are weighed once, however many share them. While they are, they count as too many: so does a tree that holds itself.
-func weigh[T any](root T, by scale[T]) int64 {
-	known := map[kidsKey[T]]int64{}
+// weigh is what a tree weighs, each of its parts told anew; false if that is more than can be weighed. Kids that are open weigh as a ring does, as who meets them stands within them. What is open when it is too much stays so: all of it is.
+func (s scales[T]) weigh(root T) (int64, bool) {
 	open := []weighing[T]{{kids: []T{root}}}
 	for {
 		last := &open[len(open)-1]
-		if last.bytes > mostBytes {
-			return tooManyBytes
-		}
 		if last.done == len(last.kids) {
 			open = open[:len(open)-1]
 			if len(open) == 0 {
-				return last.bytes
+				return last.weight, true
 			}
-			known[keyOfKids(last.kids)] = last.bytes
-			open[len(open)-1].bytes += last.bytes
+			s.known[keyOfKids(last.kids)] = last.weight
+			if !open[len(open)-1].add(last.weight, s.most) {
+				return 0, false
+			}
 			continue
 		}
-		own, kids := by(&last.kids[last.done])
+		own, kids := s.own(&last.kids[last.done])
 		last.done++
-		last.bytes += own
+		if !last.add(own, s.most) {
+			return 0, false
+		}
 		if len(kids) == 0 {
 			continue
 		}
-		bytes, met := known[keyOfKids(kids)]
-		last.bytes += bytes
+		weight, met := s.known[keyOfKids(kids)]
+		if !last.add(weight, s.most) {
+			return 0, false
+		}
 		if !met {
-			known[keyOfKids(kids)] = tooManyBytes
+			s.known[keyOfKids(kids)] = s.ring
 			open = append(open, weighing[T]{kids: kids})
 		}
 	}
 }
 
-// written is a value whose kids are being written, and how many of them are.
+// add adds a weight; false if there is more than can be weighed.
+func (w *weighing[T]) add(more int64, most int64) bool {
+	if more > most-w.weight {
+		return false
+	}
+	w.weight += more
+	return true
+}
+
+// echo is where in a text what has a key was written, so that it is written again by its text: a text may be far longer than what it tells takes of memory.
+type echo[K comparable] map[K]span
+
+// span is from where to where something stands in a text.
+type span struct {
+	from int
+	to   int
+}
+
+// again writes what has a key once more; false if it was not written yet.
+func (e echo[K]) again(out *strings.Builder, key K) bool {
+	at, met := e[key]
+	if met {
+		out.WriteString(out.String()[at.from:at.to])
+	}
+	return met
+}
+
+// textKey is what the text of a value hangs on that has kids.
+type textKey struct {
+	sort  int
+	names kidsKey[string]
+	kids  kidsKey[Value]
+}
+
+// written is a value whose kids are being written, how many of them are, and from where on.
 type written struct {
 	*Value
 	sort jsonSort
 	kids int
+	from int
+}
+
+func (w written) key() textKey {
+	return textKey{sort: w.Sort, names: keyOfKids(w.Names), kids: keyOfKids(w.Kids)}
 }
 
 // writeValue writes a value that can be told, whether it is ok or not. What is open is in a list for the reason that partsOf has.
 func writeValue(out *strings.Builder, v Value) {
-	open := beginValue(out, &v, nil)
+	done := echo[textKey]{}
+	open := beginValue(out, &v, nil, done)
 	for len(open) > 0 {
 		last := &open[len(open)-1]
 		if last.kids == len(last.Kids) {
 			out.WriteString(last.sort.end())
+			done[last.key()] = span{from: last.from, to: out.Len()}
 			open = open[:len(open)-1]
 			continue
 		}
 		kid := &last.Kids[last.kids]
 		last.sort.lead(out, *last.Value, last.kids)
 		last.kids++
-		open = beginValue(out, kid, open)
+		open = beginValue(out, kid, open, done)
 	}
 }
 
-// beginValue writes a value as far as its kids; if it may have some, it is open behind that.
-func beginValue(out *strings.Builder, v *Value, open []written) []written {
+// beginValue writes a value as far as its kids; if it may have some, and was not done yet, it is open behind that.
+func beginValue(out *strings.Builder, v *Value, open []written, done echo[textKey]) []written {
 	sort, ok := sortOf(v.Sort)
 	if !ok {
 		return open
 	}
-	sort.write(out, *v)
 	if sort.end() == "" {
+		sort.write(out, *v)
 		return open
 	}
-	return append(open, written{Value: v, sort: sort})
+	w := written{Value: v, sort: sort, from: out.Len()}
+	if done.again(out, w.key()) {
+		return open
+	}
+	sort.write(out, *v)
+	return append(open, w)
 }
 
 func writeComma(out *strings.Builder, place int) {
@@ -625,6 +692,29 @@ func copyValue(v Value) Value {
 // copyTexts is a list in new memory, also where slices.Clone would hand back an empty one itself.
 func copyTexts(list []string) []string {
 	return append([]string(nil), list...)
+}
+
+func boolText(v Value) string {
+	if v.Num == 1 {
+		return "true"
+	}
+	return "false"
+}
+
+// decimalBytes is how many bytes a number has as it is written.
+func decimalBytes(n int) int64 {
+	var room [20]byte
+	return int64(len(strconv.AppendInt(room[:0], int64(n), 10)))
+}
+
+// quotedBytes is how many bytes a text has as it is written.
+func quotedBytes(text string) int64 {
+	return int64(len(`""`) + len(text) + strings.Count(text, `"`) + strings.Count(text, `\`))
+}
+
+// bracketBytes is how many bytes stand around and between so many kids.
+func bracketBytes(kids int) int64 {
+	return int64(len("[]") + max(kids-1, 0))
 }
 
 func hasNoKids(v Value) bool {

@@ -291,6 +291,7 @@ func TestAnswerNone(t *testing.T) {
 		{object("a", object("b", list(null(), null()))), 2},
 		{bad(), 0},
 		{list(bad(), null(), impl.Value{Sort: 99}), 1},
+		{impl.Value{Sort: impl.JsonNull, Kids: []impl.Value{null(), number(1)}}, 2},
 	} {
 		if got := impl.AnswerNone(impl.Answer{Data: c.data, Wrongs: []impl.Wrong{{Code: 1}}}); got != c.want {
 			t.Errorf("%v: %d, want %d", c.data, got, c.want)

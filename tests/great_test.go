@@ -1,7 +1,10 @@
 package tests
 
 import (
+	"math"
+	"math/rand"
 	"slices"
+	"strconv"
 	"strings"
 	"testing"
 
@@ -92,9 +95,87 @@ func TestManyPartsApart(t *testing.T) {
 	}
 }
 
+// Many short parts in few lists: 902,002,029 bytes at most, of which each list takes but its own in memory.
+func TestAnswerTextManyParts(t *testing.T) {
+	for _, count := range []int{1, 2, 450} {
+		v, bytes := number(7), 1
+		for _, many := range []int{count, 1000, 1000} {
+			v = list(slices.Repeat([]impl.Value{v}, many)...)
+			bytes = many*bytes + many + 1
+		}
+		head, tail := `{"data":{"x":`, `},"wrong":[{"way":[],"code":1}]}`
+		got := impl.AnswerText(impl.Answer{Data: object("x", v), Wrongs: []impl.Wrong{{Code: 1}}})
+		if len(got) != len(head)+bytes+len(tail) || !strings.HasPrefix(got, head+"[[[7") || !strings.HasSuffix(got, "7]]]"+tail) || strings.Count(got, "7") != count*1000000 || strings.Count(got, "[7") != 1000000 {
+			t.Errorf("%d: %d bytes: %.60s", count, len(got), got)
+		}
+	}
+}
+
+// sharedValue is a value by chance whose lists and names share memory with those of others, also in part, and also where the sort is another one.
+func sharedValue(r *rand.Rand, kids, names int, pool []impl.Value) impl.Value {
+	if r.Intn(3) == 0 {
+		return []impl.Value{null(), truth(true), truth(false), number(-r.Intn(2000)), number(math.MaxInt), number(math.MinInt), text(""), text(`a"b\"`), text("\x00\xff\\")}[r.Intn(9)]
+	}
+	words := []string{"a", "b", "", "long_name", `"`, "a"}
+	from := r.Intn(len(pool) - kids + 1)
+	v := list(pool[from : from+kids]...)
+	if r.Intn(2) == 0 {
+		v.Sort, v.Names = impl.JsonObj, words[names:names+kids]
+	}
+	return v
+}
+
+// Values that share memory are told as if they did not.
+func TestAnswerTextShared(t *testing.T) {
+	r := rand.New(rand.NewSource(39))
+	longest := 0
+	for range 3000 {
+		// No list is moved when one more comes behind it.
+		pool := append(make([]impl.Value, 0, 40), null(), number(1), text("x"))
+		for range 2 + r.Intn(30) {
+			kids := r.Intn(4)
+			pool = append(pool, sharedValue(r, kids, r.Intn(7-kids), pool[max(0, len(pool)-5):]))
+		}
+		data := pool[len(pool)-1]
+		want := `{"data":` + looseText(data) + `}`
+		if got := impl.AnswerText(impl.Answer{Data: data}); got != want {
+			t.Fatalf("%.200s, want %.200s", got, want)
+		}
+		longest = max(longest, len(want))
+	}
+	if longest < 1000 {
+		t.Errorf("%d bytes at most", longest)
+	}
+}
+
+// looseText is a value as it is written, whatever its texts, names and numbers are.
+func looseText(v impl.Value) string {
+	var kids []string
+	for i, kid := range v.Kids {
+		line := looseText(kid)
+		if v.Sort == impl.JsonObj {
+			line = `"` + v.Names[i] + `":` + line
+		}
+		kids = append(kids, line)
+	}
+	switch v.Sort {
+	case impl.JsonNull:
+		return "null"
+	case impl.JsonBool:
+		return strconv.FormatBool(v.Num == 1)
+	case impl.JsonInt:
+		return strconv.Itoa(v.Num)
+	case impl.JsonText:
+		return `"` + strings.NewReplacer(`"`, `\"`, `\`, `\\`).Replace(v.Text) + `"`
+	case impl.JsonList:
+		return "[" + strings.Join(kids, ",") + "]"
+	}
+	return "{" + strings.Join(kids, ",") + "}"
+}
+
 // What is greater than memory, as its lists share what they have, cannot be told, but is answered.
 func TestMoreThanMemory(t *testing.T) {
-	long := squareList(2048, 2048)
+	long := squareList(8192, 2048)
 	long.Kids[0].Kids[0] = text(strings.Repeat("x", 4000000))
 	names := impl.Value{Sort: impl.JsonNull, Names: make([]string, 4000000)}
 	pairs := null()
@@ -116,7 +197,7 @@ func TestMoreThanMemory(t *testing.T) {
 	}
 	p := part(t, "part p\ntype query\n  a int\n  b int\n")
 	cut := impl.StoreCut(p, []impl.Row{row("query", 0, "a,b", pairs, number(1))})
-	if !same(cut, []impl.Row{row("query", 0, "a,b", null(), number(1))}) {
+	if !same(cut, []impl.Row{row("query", 0, "a,b", impl.Value{}, number(1))}) || impl.StoreOk(p, cut) {
 		t.Error("pairs of pairs are cut to something")
 	}
 	// What is not written does not matter: but for its Sorts.

@@ -77,6 +77,9 @@ func anySailArgs(r *rand.Rand) sailArgs {
 	for _, s := range v.steps[:r.Intn(len(v.steps)+1)] {
 		x.Raw = doneByHand(v.parts[s.Part], v.stores[s.Part], s, x.Raw, r.Intn(5) == 0)
 	}
+	if r.Intn(5) > 0 {
+		x.Raw = mended(x.Raw)
+	}
 	x.Picks, x.Fails, x.Texts = somePicks(r), somePlaces(r, len(v.steps)), textsOf(v.parts)
 	for range 3 {
 		x.Lines = append(x.Lines, anyLine(r, v))
@@ -269,16 +272,6 @@ func TestOnceGreatSails(t *testing.T) {
 			t.Errorf("done: %.80v", got)
 		}
 	}
-	// As many as 6 levels of 3000 are more than memory has, though each can be asked for.
-	ring := crew(t, "a; type query; us [u]; type u key id; id int!; us [u]")[0]
-	rows := []impl.Row{row("query", 0, "us", list(number(1), number(1), number(1))), row("u", 1, "id,us", number(1), list(number(1), number(1), number(1)))}
-	great := sels(sel("id"))
-	for range 5 {
-		great = slices.Repeat(sels(sel("us", great...)), 3000)
-	}
-	if got := impl.SailStep(ring, rows, impl.Step{Type: "query", Sels: great}, object(""), false); !isNothing(got) {
-		t.Error("more than memory has is done")
-	}
 	ranks := slices.Repeat(sels(sel("rank")), 200000)
 	if got := impl.SailStep(v.parts[1], v.stores[1], impl.Step{Type: "user", Sels: ranks}, object("_id", number(1)), false); len(got.Names) != 2 {
 		t.Errorf("%.80v", got)
@@ -362,6 +355,21 @@ func TestOnceManySails(t *testing.T) {
 	}
 	if _, code := impl.PortOpen(make([]string, 1000000)); code != impl.PortPart {
 		t.Errorf("code %d", code)
+	}
+	texts := slices.Repeat(exampleTexts(t)[:1], 5000)
+	if got, code := impl.PortOpen(texts); code != impl.PortChart || len(got) != 0 {
+		t.Errorf("code %d", code)
+	}
+	if _, code := impl.PortOpen(append(texts, "x")); code != impl.PortPart {
+		t.Errorf("code %d", code)
+	}
+	// Entries that looked at the same in memory, together at more than memory has.
+	shared := slices.Repeat([]impl.Entry{{Text: "x", Answer: "y", Uses: slices.Repeat([]string{"user.age"}, 1000000)}}, 100000)
+	if got, answer, hit := impl.CacheAsk(shared, v.parts, v.stores, "x"); !hit || answer != "y" || len(got) != 0 {
+		t.Errorf("%d kept, %q, %v", len(got), answer, hit)
+	}
+	if got, answer, hit := impl.CacheAsk(shared, v.parts, v.stores, "{n0}"); hit || answer != `{"data":{"n0":1}}` || len(got) != impl.CacheMax || len(got[0].Uses) != 1000000 {
+		t.Errorf("%d kept, %q, %v", len(got), answer, hit)
 	}
 }
 

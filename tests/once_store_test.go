@@ -70,8 +70,12 @@ func TestOnceStoresWithoutEnd(t *testing.T) {
 			t.Errorf("%d: answered", i)
 		}
 		cut := impl.StoreCut(p, rows)
-		if got, ok := impl.StoreGet(cut, "query", 0, name); !ok || !same(got, null()) || len(cut) != 1 || len(cut[0].Cells) != 3 {
+		if got, ok := impl.StoreGet(cut, "query", 0, name); !ok || !isNothing(got) || len(cut) != 1 || len(cut[0].Cells) != 3 {
 			t.Errorf("%d: cut to something", i)
+		}
+		// The row has the cell, and it does not fit: so it is of the cut.
+		if impl.StoreOk(p, cut) || !same(impl.StoreCut(p, cut), cut) {
+			t.Errorf("%d: cut to a store", i)
 		}
 		if got := impl.AnswerText(impl.Answer{Data: list(null(), v), Wrongs: []impl.Wrong{{Code: 1}}}); got != `{"wrong":0}` {
 			t.Errorf("%d: told as %.60s", i, got)

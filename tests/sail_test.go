@@ -137,8 +137,8 @@ func TestSailStep(t *testing.T) {
 	}{
 		{"brought", impl.Step{Type: "user", Way: []string{"u"}, Sels: sels(sel("rank")), Brings: []string{"age"}}, object("u", user(number(1), number(30))), false, object("u", object("_id,_age,rank", number(1), number(30), number(35)))},
 		{"brought null", impl.Step{Type: "user", Sels: sels(sel("rank")), Brings: []string{"age"}}, user(number(1), null()), false, object("_id,_age,rank", number(1), null(), null())},
-		{"brought bad", impl.Step{Type: "user", Sels: sels(sel("rank")), Brings: []string{"age"}}, user(number(1), badBy(3)), false, object("_id,_age,rank", number(1), badBy(3), badBy(3))},
-		{"brought bad otherwise", impl.Step{Type: "user", Sels: sels(sel("rank")), Brings: []string{"age"}}, user(number(1), badBy(1)), false, object("_id,_age,rank", number(1), badBy(1), badBy(1))},
+		{"brought bad", impl.Step{Type: "user", Sels: sels(sel("rank")), Brings: []string{"age"}}, user(number(1), badBy(3)), false, impl.Value{}},
+		{"brought bad otherwise", impl.Step{Type: "user", Sels: sels(sel("rank")), Brings: []string{"age"}}, user(number(1), badBy(1)), false, impl.Value{}},
 		{"brought something else", impl.Step{Type: "user", Sels: sels(sel("rank")), Brings: []string{"age"}}, user(number(1), text("30")), false, object("_id,_age,rank", number(1), text("30"), null())},
 		{"not there, though it is brought", impl.Step{Type: "user", Sels: sels(sel("rank")), Brings: []string{"age"}}, object("_id", number(1)), false, object("_id,rank", number(1), null())},
 		{"not brought, and Far", impl.Step{Type: "user", Sels: sels(sel("rank"))}, user(number(1), number(30)), false, object("_id,_age,rank", number(1), number(30), null())},
@@ -146,7 +146,14 @@ func TestSailStep(t *testing.T) {
 		{"just not too great", impl.Step{Type: "user", Sels: sels(sel("rank")), Brings: []string{"age"}}, user(number(2), number(0)), false, object("_id,_age,rank", number(2), number(0), number(999999))},
 		{"one is brought, the other its own", impl.Step{Type: "user", Sels: sels(sel("sum")), Brings: []string{"age"}}, object("_id,_age,_extra", number(1), number(1), number(7)), false, object("_id,_age,_extra,sum", number(1), number(1), number(7), number(111))},
 		{"both are brought", impl.Step{Type: "user", Sels: sels(sel("sum")), Brings: []string{"age", "extra"}}, object("_id,_age,_extra", number(1), number(1), number(7)), false, object("_id,_age,_extra,sum", number(1), number(1), number(7), number(108))},
-		{"the first that is bad", impl.Step{Type: "user", Sels: sels(sel("sum")), Brings: []string{"age"}}, user(number(2), badBy(3)), false, object("_id,_age,sum", number(2), badBy(3), badBy(3))},
+		{"bad by what is done ahead", impl.Step{Type: "user", Sels: sels(sel("_extra:extra"), sel("sum")), Brings: []string{"age", "extra"}}, user(number(2), number(1)), false, object("_id,_age,_extra,sum", number(2), number(1), badBy(1), badBy(1))},
+		{"what is done behind does not stand there yet", impl.Step{Type: "user", Sels: sels(sel("sum"), sel("_extra:extra")), Brings: []string{"age", "extra"}}, user(number(1), number(1)), false, object("_id,_age,sum,_extra", number(1), number(1), null(), number(10))},
+		{"twice under one name", impl.Step{Type: "user", Sels: sels(sel("x:extra"), sel("y:id"), sel("x:rank"), sel("x:id"))}, object("_id", number(1)), false, object("_id,x,y", number(1), number(1), number(1))},
+		{"twice, and needed between", impl.Step{Type: "user", Sels: sels(sel("_age:extra"), sel("rank"), sel("_age:id"), sel("sum")), Brings: []string{"age"}}, object("_id", number(1)), false, object("_id,_age,rank,sum", number(1), number(1), number(15), number(111))},
+		{"twice, and needed behind itself", impl.Step{Type: "user", Sels: sels(sel("_age:extra"), sel("_age:rank"), sel("_age:rank")), Brings: []string{"age"}}, object("_id", number(1)), false, object("_id,_age", number(1), number(20))},
+		{"a thing is needed", impl.Step{Type: "user", Sels: sels(sel("_age:pal", sel("id")), sel("rank"), sel("_age:extra"), sel("r:rank")), Brings: []string{"age"}}, user(number(1), number(30)), false, object("_id,_age,rank,r", number(1), number(10), null(), number(15))},
+		{"bad things are needed", impl.Step{Type: "user", Sels: sels(sel("_age:pals", sel("id")), sel("rank"), sel("_age:id")), Brings: []string{"age"}}, user(number(2), number(30)), false, object("_id,_age,rank", number(2), number(2), badBy(1))},
+		{"things twice under one name", impl.Step{Type: "user", Sels: sels(sel("x:pals", sel("id")), sel("pal", sel("id"), sel("id"), sel("y:tags")), sel("x:pal", sel("extra")))}, object("_id", number(1)), false, object("_id,x,pal", number(1), object("extra", badBy(1)), object("id,y", number(2), null()))},
 		{"bad though another is null", impl.Step{Type: "user", Sels: sels(sel("sum")), Brings: []string{"age"}}, user(number(2), null()), false, object("_id,_age,sum", number(2), null(), badBy(1))},
 		{"brought, but itself asked for", impl.Step{Type: "user", Sels: sels(sel("extra")), Brings: []string{"extra"}}, object("_id,_extra", number(1), number(7)), false, object("_id,_extra,extra", number(1), number(7), number(10))},
 		{"what is done ahead stands there", impl.Step{Type: "user", Sels: sels(sel("_extra:extra"), sel("sum")), Brings: []string{"age", "extra"}}, user(number(1), number(1)), false, object("_id,_age,_extra,sum", number(1), number(1), number(10), number(111))},
@@ -158,13 +165,13 @@ func TestSailStep(t *testing.T) {
 		{"null for a number", impl.Step{Type: "user", Sels: sels(sel("rank"))}, object("_id", null()), true, object("_id", null())},
 		{"a text for a number", impl.Step{Type: "user", Sels: sels(sel("rank"))}, object("_id", text("1")), false, object("_id", text("1"))},
 		{"a truth for a number", impl.Step{Type: "user", Sels: sels(sel("rank"))}, object("_id", truth(true)), false, object("_id", truth(true))},
-		{"bad for a number", impl.Step{Type: "user", Sels: sels(sel("rank"))}, object("_id", badBy(3)), false, object("_id", badBy(3))},
+		{"bad for a number", impl.Step{Type: "user", Sels: sels(sel("rank"))}, object("_id", badBy(3)), false, impl.Value{}},
 		{"query needs no number", impl.Step{Type: "query", Sels: sels(sel("n1"))}, object("_id", text("x")), false, object("_id,n1", text("x"), number(2))},
 		{"query fails", impl.Step{Type: "query", Sels: sels(sel("n1"), sel("m:n1"))}, object(""), true, object("n1,m", badBy(3), badBy(3))},
 		{"of several things", impl.Step{Type: "user", Way: []string{"a", "b"}, Sels: sels(sel("extra"))}, object("a", list(object("b", user(number(1), null())), null(), object("c", number(1)), object("b", list(user(number(2), null()), list(object("_id", number(7)))))) /* lists within lists are gone through, too */), false, object("a", list(object("b", object("_id,_age,extra", number(1), null(), number(10))), null(), object("c", number(1)), object("b", list(object("_id,_age,extra", number(2), null(), badBy(1)), list(object("_id,extra", number(7), badBy(3)))))))},
 		{"a list is outermost", impl.Step{Type: "query", Sels: sels(sel("n1"))}, list(object(""), number(1), object("n1", null())), false, list(object("n1", number(2)), number(1), object("n1", number(2)))},
 		{"no thing along the way", impl.Step{Type: "user", Way: []string{"zz"}, Sels: sels(sel("rank"))}, object("_id", number(1)), true, object("_id", number(1))},
-		{"a bad thing along the way", impl.Step{Type: "user", Way: []string{"u"}, Sels: sels(sel("rank"))}, object("u", badBy(3)), false, object("u", badBy(3))},
+		{"a bad thing along the way", impl.Step{Type: "user", Way: []string{"u"}, Sels: sels(sel("rank"))}, object("u", badBy(3)), false, impl.Value{}},
 		{"a place is no name of a way", impl.Step{Type: "user", Way: []string{"u", "0"}, Sels: sels(sel("rank"))}, object("u", list(user(number(1), null()))), false, object("u", list(user(number(1), null())))},
 		{"no thing at all", impl.Step{Type: "user", Sels: sels(sel("rank"))}, number(1), true, number(1)},
 		{"nothing is asked for", impl.Step{Type: "user"}, user(number(1), null()), true, user(number(1), null())},
@@ -248,8 +255,15 @@ func TestSailStepRefuses(t *testing.T) {
 		{"raw of no sort", func(x *stepArgs) { x.Raw.Sort = 8 }, false},
 		{"raw is bad as a cell is", func(x *stepArgs) { x.Raw = bad() }, false},
 		{"raw has what is bad as a cell is", func(x *stepArgs) { x.Raw = object("a", bad()) }, false},
-		{"raw has what is bad, with its code", func(x *stepArgs) { x.Raw = object("a,b", badBy(1), list(badBy(3))) }, true},
+		{"raw is bad, with its code", func(x *stepArgs) { x.Raw = badBy(1) }, false},
+		{"raw is bad, and it fails", func(x *stepArgs) { x.Raw, x.Fails = badBy(3), true }, false},
+		{"raw has what is bad, with its code", func(x *stepArgs) { x.Raw = object("a", badBy(1)) }, false},
+		{"raw has what is bad, with another code", func(x *stepArgs) { x.Raw = object("a,b", null(), list(object("c", badBy(3)))) }, false},
+		{"raw has what is bad, and it fails", func(x *stepArgs) { x.Raw, x.Fails = object("a", badBy(3)), true }, false},
 		{"raw has what is bad, with no such code", func(x *stepArgs) { x.Raw = object("a", badBy(2)) }, false},
+		{"raw is a list of what is bad", func(x *stepArgs) { x.Raw = list(object(""), badBy(1)) }, false},
+		{"raw has what is bad, off the way", func(x *stepArgs) { x.Raw, x.S.Way = object("a,b", object(""), badBy(1)), []string{"a"} }, false},
+		{"raw has what is bad, and nothing is asked for", func(x *stepArgs) { x.Raw, x.S.Sels = object("a", badBy(1)), nil }, false},
 		{"raw has what is bad, with kids", func(x *stepArgs) { x.Raw = object("a", impl.Value{Sort: impl.Bad, Num: 3, Kids: []impl.Value{null()}}) }, false},
 		{"raw has what is bad, with a text", func(x *stepArgs) { x.Raw = object("a", impl.Value{Sort: impl.Bad, Num: 3, Text: "x"}) }, false},
 		{"raw with a name too few", func(x *stepArgs) { x.Raw.Kids = append(x.Raw.Kids, null()) }, false},
@@ -283,6 +297,9 @@ func TestSailStepByChance(t *testing.T) {
 		}
 		raw := object("")
 		for _, s := range v.steps {
+			if !impl.JsonOk(raw) && r.Intn(3) > 0 {
+				raw = mended(raw)
+			}
 			p, rows := v.parts[s.Part], v.stores[s.Part]
 			if r.Intn(8) == 0 {
 				s.Brings = nil
@@ -292,27 +309,38 @@ func TestSailStepByChance(t *testing.T) {
 			}
 			fails := r.Intn(6) == 0
 			got := impl.SailStep(p, rows, s, raw, fails)
-			if countByHand(raw) > 600 {
-				if !isNothing(got) {
-					t.Fatalf("raw of %d parts", countByHand(raw))
-				}
-				break
-			}
 			want := doneByHand(p, rows, s, raw, fails)
+			if !impl.JsonOk(raw) {
+				if !isNothing(got) {
+					t.Fatalf("%v%v of %v, which is not ok: %v", v, s, raw, got)
+				}
+				raw = want
+				bads++
+				continue
+			}
 			if !same(got, want) {
 				t.Fatalf("%v%v of %v: %v, want %v", v, s, raw, got, want)
 			}
 			wantNames(t, raw, got)
 			raw = got
 			done++
-			if !impl.JsonOk(raw) {
-				bads++
-			}
 		}
 	}
-	if done < 5000 || bads < 1000 {
-		t.Errorf("%d steps, %d with what is bad", done, bads)
+	if done < 5000 || bads < 500 {
+		t.Errorf("%d steps, %d of what is bad", done, bads)
 	}
+}
+
+// mended is a value with null for all that is bad in it.
+func mended(v impl.Value) impl.Value {
+	if v.Sort == impl.Bad {
+		return null()
+	}
+	v = deep(v)
+	for i, kid := range v.Kids {
+		v.Kids[i] = mended(kid)
+	}
+	return v
 }
 
 // wantNames fails if a thing has lost a name (P38: behind SailStep each thing has all the names that it had).
@@ -344,7 +372,7 @@ func TestP38(t *testing.T) {
 				break
 			}
 			wantNames(t, raw, next)
-			raw = next
+			raw = mended(next)
 		}
 	}
 }

@@ -111,6 +111,39 @@ func TestPortSessionClosed(t *testing.T) {
 	wantSession(t, "more", fine, more, []string{"{n1,n0}"}, `{"data":{"n1":null,"n0":1}}`)
 }
 
+// Whether a cut is ok hangs on what the rows have, however many parts a value has, or if it holds itself.
+func TestPortSessionManyParts(t *testing.T) {
+	fine := exampleTexts(t)
+	held := endless()
+	for levels := 2; levels <= 200; levels++ {
+		v := null()
+		for range levels {
+			v = list(v, v)
+		}
+		held = append(held, v)
+	}
+	for i, v := range held {
+		for _, cell := range []struct{ at, of int }{{0, 0}, {0, 1}, {0, 2}, {1, 0}, {1, 1}, {2, 2}, {2, 3}} {
+			rows := exampleRows()
+			rows[cell.at].Cells[cell.of].Value = v
+			if got := impl.PortSession(fine, rows, []string{"{n0}", "what"}); got != "closed 6\n" {
+				t.Fatalf("%d, in the cell %v: %.80q", i, cell, got)
+			}
+		}
+		// What no part knows, and what another cell of that name stands ahead of, does not matter.
+		rows := exampleRows()
+		rows[0].Cells = append(rows[0].Cells, impl.Cell{Name: "zz", Value: v}, impl.Cell{Name: "n0", Value: v})
+		rows = append(rows, row("zz", 1, "id", v))
+		if got := impl.PortSession(fine, rows, []string{"{n0}", "what"}); got != "{\"data\":{\"n0\":1}}\nwhat\n" {
+			t.Fatalf("%d: %.80q", i, got)
+		}
+	}
+	// A list of two nulls fits a field of a List.
+	if got := impl.PortSession([]string{"part a\ntype query\n  n [int]\n"}, []impl.Row{row("query", 0, "n", list(null(), null()))}, []string{"{n}"}); got != "{\"data\":{\"n\":[null,null]}}\n" {
+		t.Error(got)
+	}
+}
+
 func TestPortSessionLines(t *testing.T) {
 	texts, rows := exampleTexts(t), exampleRows()
 	wantSession(t, "no lines", texts, rows, nil)
